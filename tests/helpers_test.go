@@ -38,3 +38,10 @@ func (s *sequence) below(n int64) int64 {
 	*s = *s*6364136223846793005 + 1442695040888963407
 	return int64(uint64(*s>>11) % uint64(n))
 }
+
+// fill sets all elements of a list.
+func fill(list []int64, element int64) {
+	for i := range list {
+		list[i] = element
+	}
+}
