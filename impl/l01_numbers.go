@@ -32,6 +32,8 @@ const (
 // emptyListText stands for no numbers, so that no list has the empty text.
 const emptyListText = "-"
 
+const listSeparator = ","
+
 // aboveLimit stands for every result that exceeds MaxNumber, so that sums and products can be
 // carried on without overflow.
 const aboveLimit = MaxNumber + 1
@@ -145,11 +147,7 @@ func ListText(list []int64) (string, int64) {
 	if len(list) == 0 {
 		return emptyListText, ErrNone
 	}
-	words := make([]string, len(list))
-	for i, number := range list {
-		words[i] = strconv.FormatInt(number, 10)
-	}
-	return strings.Join(words, ","), ErrNone
+	return joinNumbers(list, listSeparator), ErrNone
 }
 
 // ReadList returns the numbers with the ListText s, at most MaxList, and ErrNone. It returns nil
@@ -158,19 +156,38 @@ func ReadList(s string) ([]int64, int64) {
 	if s == emptyListText {
 		return []int64{}, ErrNone
 	}
-	if strings.Count(s, ",") >= MaxList {
+	list, ok := splitNumbers(s, listSeparator)
+	if !ok {
 		return nil, ErrSyntax
 	}
-	words := strings.Split(s, ",")
+	return list, ErrNone
+}
+
+// joinNumbers returns numbers in decimal with a separator between them.
+func joinNumbers(list []int64, separator string) string {
+	words := make([]string, len(list))
+	for i, number := range list {
+		words[i] = strconv.FormatInt(number, 10)
+	}
+	return strings.Join(words, separator)
+}
+
+// splitNumbers returns the numbers, from 1 to MaxList of them, that joinNumbers joins to s, and
+// reports whether there are any.
+func splitNumbers(s, separator string) ([]int64, bool) {
+	if strings.Count(s, separator) >= MaxList {
+		return nil, false
+	}
+	words := strings.Split(s, separator)
 	list := make([]int64, len(words))
 	for i, word := range words {
 		number, ok := readNumber(word)
 		if !ok {
-			return nil, ErrSyntax
+			return nil, false
 		}
 		list[i] = number
 	}
-	return list, ErrNone
+	return list, true
 }
 
 // readNumber returns the number whose decimal text is s. ParseInt also accepts signs and
